@@ -4,29 +4,54 @@ WRONGLY_TOLD = -22
 MOST_QUESTIONS = 5
 
 
-def how_many_rows(m):
-    rows = 1
-    for question in range(m):
-        rows = rows * 2
-    return rows
+def two_to_the_power(n):
+    power = 1
+    for step in range(n):
+        power = power * 2
+    return power
 
 
 def rules_are_right(m, ok):
-    # m comes first: it may be so great that its rows could not be counted.
+    # m comes first: it may be so great that 2 to its power could not be told.
     if m < 1 or m > MOST_QUESTIONS:
         return False
-    if len(ok) == 0 or max(ok) >= how_many_rows(m):
+    if len(ok) == 0 or max(ok) >= two_to_the_power(m):
         return False
     return len(set(ok)) == len(ok)
 
 
 def answers_are_right(m, a, b):
     # Where b has no question that a hasn't, b is no greater than a, so a's bound is b's too.
-    return a < how_many_rows(m) and (a & b) == b
+    return a < two_to_the_power(m) and (a & b) == b
 
 
 def rows_that_have(a, b, ok):
     return sorted([row for row in ok if (row & a) == b])
+
+
+def they_go_together(a, b, ok):
+    return len(rows_that_have(a, b, ok)) > 0
+
+
+def is_clash(m, a, b, ok):
+    if they_go_together(a, b, ok):
+        return False
+    for question in range(m):
+        left_out = two_to_the_power(question)
+        if (a & left_out) != 0:
+            others = a - left_out
+            if not they_go_together(others, b & others, ok):
+                return False
+    return True
+
+
+def clashes_in_order(m, ok):
+    found = []
+    for a in range(two_to_the_power(m)):
+        for b in range(a + 1):
+            if (a & b) == b and is_clash(m, a, b, ok):
+                found.append((a, b))
+    return found
 
 
 def goes(m, a, b, ok):
@@ -36,3 +61,14 @@ def goes(m, a, b, ok):
         return [WRONGLY_TOLD]
     rows = rows_that_have(a, b, ok)
     return [len(rows)] + rows
+
+
+def clashes(m, ok):
+    if not rules_are_right(m, ok):
+        return [WRONGLY_TOLD]
+    found = clashes_in_order(m, ok)
+    answer = [len(found)]
+    for a, b in found:
+        answer.append(a)
+        answer.append(b)
+    return answer

@@ -1,17 +1,10 @@
 """goes: the rows that may stand and have some answers, and the refusal -22."""
 
-import contextlib
-import io
 import itertools
 import unittest
 
 from clashrules.answers import goes
-
-GREATEST = 4294967295
-
-
-def answers_yes(number, question):
-    return number // 2 ** question % 2 == 1
+from common import GREATEST_NUMBER, KeepsTheInterface, answers_yes
 
 
 def has_them(m, a, b, row):
@@ -30,16 +23,6 @@ def expected(m, a, b, ok):
         return [-22]
     found = [row for row in range(rows) if row in ok and has_them(m, a, b, row)]
     return [len(found)] + found
-
-
-class Unchanging(list):
-    """A list that tells of any attempt to change it, even for a while."""
-
-    def refuse(self, *args, **kwargs):
-        raise AssertionError("ok was changed")
-
-    append = clear = extend = insert = pop = remove = reverse = sort = refuse
-    __setitem__ = __delitem__ = __iadd__ = __imul__ = refuse
 
 
 class Ordinary(unittest.TestCase):
@@ -123,7 +106,7 @@ class Refusals(unittest.TestCase):
         self.assertEqual(goes(m, a, b, ok), [-22], (m, a, b, ok))
 
     def test_questions_not_one_to_five(self):
-        for m in (0, 6, 7, 8, 31, 32, 64, GREATEST - 1, GREATEST):
+        for m in (0, 6, 7, 8, 31, 32, 64, GREATEST_NUMBER - 1, GREATEST_NUMBER):
             self.refused(m, 0, 0, [0])
             self.refused(m, 1, 1, [1, 0])
 
@@ -155,20 +138,20 @@ class Refusals(unittest.TestCase):
     def test_a_too_great(self):
         for m in range(1, 6):
             rows = 2 ** m
-            for a in (rows, rows + 1, 2 * rows, 2 ** 31, GREATEST):
+            for a in (rows, rows + 1, 2 * rows, 2 ** 31, GREATEST_NUMBER):
                 self.refused(m, a, 0, [0, 1])
             self.assertEqual(goes(m, rows - 1, 0, [0, 1]), [1, 0])
 
     def test_b_too_great(self):
         for m in range(1, 6):
             rows = 2 ** m
-            for b in (rows, rows + 1, 2 * rows - 1, 2 ** 31, GREATEST):
+            for b in (rows, rows + 1, 2 * rows - 1, 2 ** 31, GREATEST_NUMBER):
                 self.refused(m, rows - 1, b, [0, 1])
                 self.refused(m, 0, b, [0, 1])
 
     def test_a_and_b_too_great(self):
         for m in range(1, 6):
-            for both in (2 ** m, 2 ** m + 1, GREATEST):
+            for both in (2 ** m, 2 ** m + 1, GREATEST_NUMBER):
                 self.refused(m, both, both, [0, 1])
 
     def test_b_has_a_question_that_a_has_not(self):
@@ -190,7 +173,7 @@ class Refusals(unittest.TestCase):
 
     def test_several_at_once(self):
         self.refused(0, 0, 0, [])
-        self.refused(GREATEST, GREATEST, GREATEST, [255] * 40)
+        self.refused(GREATEST_NUMBER, GREATEST_NUMBER, GREATEST_NUMBER, [255] * 40)
         self.refused(2, 4, 8, [4, 4])
 
 
@@ -227,7 +210,7 @@ CALLS = (
     (3, 7, 7, [5, 6, 3, 0]),
     (5, 31, 31, [31]),
     (0, 0, 0, [5, 1]),
-    (GREATEST, 0, 0, [5, 1]),
+    (GREATEST_NUMBER, 0, 0, [5, 1]),
     (3, 0, 0, []),
     (3, 0, 0, [5, 1, 5]),
     (3, 0, 0, [8, 1]),
@@ -237,48 +220,12 @@ CALLS = (
 )
 
 
-class Interface(unittest.TestCase):
-    def test_ok_stays_as_it_was(self):
-        for m, a, b, rows in CALLS:
-            ok = list(rows)
-            goes(m, a, b, ok)
-            self.assertEqual(ok, rows)
-
-    def test_ok_is_not_changed_for_a_while(self):
-        for m, a, b, rows in CALLS:
-            self.assertEqual(goes(m, a, b, Unchanging(rows)), goes(m, a, b, list(rows)))
-
-    def test_a_second_call_answers_as_the_first(self):
-        first = [goes(m, a, b, list(rows)) for m, a, b, rows in CALLS]
-        second = [goes(m, a, b, list(rows)) for m, a, b, rows in reversed(CALLS)]
-        self.assertEqual(first, second[::-1])
-
-    def test_an_answer_is_a_list_of_its_own(self):
-        for m, a, b, rows in CALLS:
-            ok = list(rows)
-            first = goes(m, a, b, ok)
-            kept = list(first)
-            first.append(99)
-            first[0] = 99
-            self.assertEqual(ok, rows)
-            self.assertEqual(goes(m, a, b, ok), kept)
-
-    def test_what_is_answered_are_whole_numbers(self):
-        for m, a, b, rows in CALLS:
-            answer = goes(m, a, b, list(rows))
-            self.assertIs(type(answer), list)
-            for number in answer:
-                self.assertIs(type(number), int)
+class Interface(KeepsTheInterface, unittest.TestCase):
+    call = staticmethod(goes)
+    calls = CALLS
 
     def test_arguments_by_name(self):
         self.assertEqual(goes(m=2, a=1, b=1, ok=[3, 1]), [2, 1, 3])
-
-    def test_it_prints_nothing(self):
-        out, err = io.StringIO(), io.StringIO()
-        with contextlib.redirect_stdout(out), contextlib.redirect_stderr(err):
-            for m, a, b, rows in CALLS:
-                goes(m, a, b, list(rows))
-        self.assertEqual(out.getvalue() + err.getvalue(), "")
 
 
 if __name__ == "__main__":
