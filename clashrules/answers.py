@@ -54,6 +54,10 @@ def clashes_in_order(m, ok):
     return found
 
 
+def how_many_questions(m, a):
+    return len([question for question in range(m) if (a & two_to_the_power(question)) != 0])
+
+
 def goes(m, a, b, ok):
     if not rules_are_right(m, ok):
         return [WRONGLY_TOLD]
@@ -72,3 +76,10 @@ def clashes(m, ok):
         answer.append(a)
         answer.append(b)
     return answer
+
+
+def greatest(m, ok):
+    if not rules_are_right(m, ok):
+        return [WRONGLY_TOLD]
+    sizes = [how_many_questions(m, a) for a, b in clashes_in_order(m, ok)]
+    return [max(sizes, default=0)]
