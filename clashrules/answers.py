@@ -1,6 +1,7 @@
 """The calls: each takes the rules, and some answers where it needs them, and answers a list of whole numbers."""
 
 WRONGLY_TOLD = -22
+NO_CLASH_WITHIN = -17
 MOST_QUESTIONS = 5
 
 
@@ -23,6 +24,10 @@ def rules_are_right(m, ok):
 def answers_are_right(m, a, b):
     # Where b has no question that a hasn't, b is no greater than a, so a's bound is b's too.
     return a < two_to_the_power(m) and (a & b) == b
+
+
+def all_is_right(m, a, b, ok):
+    return rules_are_right(m, ok) and answers_are_right(m, a, b)
 
 
 def rows_that_have(a, b, ok):
@@ -54,14 +59,21 @@ def clashes_in_order(m, ok):
     return found
 
 
+def clashes_among(m, a, b, ok):
+    # Which of a's questions a clash has tells its yeses too, so rising questions are the order of clashes.
+    found = []
+    for part in range(a + 1):
+        if (part & a) == part and is_clash(m, part, part & b, ok):
+            found.append((part, part & b))
+    return found
+
+
 def how_many_questions(m, a):
     return len([question for question in range(m) if (a & two_to_the_power(question)) != 0])
 
 
 def goes(m, a, b, ok):
-    if not rules_are_right(m, ok):
-        return [WRONGLY_TOLD]
-    if not answers_are_right(m, a, b):
+    if not all_is_right(m, a, b, ok):
         return [WRONGLY_TOLD]
     rows = rows_that_have(a, b, ok)
     return [len(rows)] + rows
@@ -83,3 +95,15 @@ def greatest(m, ok):
         return [WRONGLY_TOLD]
     sizes = [how_many_questions(m, a) for a, b in clashes_in_order(m, ok)]
     return [max(sizes, default=0)]
+
+
+def within(m, a, b, ok):
+    if not all_is_right(m, a, b, ok):
+        return [WRONGLY_TOLD]
+    found = clashes_among(m, a, b, ok)
+    if len(found) == 0:
+        return [NO_CLASH_WITHIN]
+    fewest = min([how_many_questions(m, part) for part, yes in found])
+    # Others may have as few: the first as clashes has them is told.
+    smallest = [clash for clash in found if how_many_questions(m, clash[0]) == fewest][0]
+    return [fewest, smallest[0], smallest[1]]

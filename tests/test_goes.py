@@ -4,24 +4,20 @@ import itertools
 import unittest
 
 from clashrules.answers import goes
-from common import GREATEST_NUMBER, KeepsTheInterface, answers_yes
-
-
-def has_them(m, a, b, row):
-    for question in range(m):
-        if answers_yes(a, question) and answers_yes(row, question) != answers_yes(b, question):
-            return False
-    return True
+from common import (
+    CALLS_OF_ANSWERS,
+    AgreesWithTheWords,
+    KeepsTheInterface,
+    RefusesWrongAnswers,
+    rightly_told,
+    rows_with,
+)
 
 
 def expected(m, a, b, ok):
-    """The document's words, question by question, for m of 1 to 5 and any a, b and ok."""
-    rows = 2 ** m
-    if not ok or any(row >= rows or ok.count(row) > 1 for row in ok):
+    if not rightly_told(m, a, b, ok):
         return [-22]
-    if a >= rows or b >= rows or any(answers_yes(b, q) and not answers_yes(a, q) for q in range(m)):
-        return [-22]
-    found = [row for row in range(rows) if row in ok and has_them(m, a, b, row)]
+    found = rows_with(m, a, b, ok)
     return [len(found)] + found
 
 
@@ -101,128 +97,18 @@ class Edges(unittest.TestCase):
         self.assertEqual(goes(2, 1, 1, [3, 1]), [2, 1, 3])
 
 
-class Refusals(unittest.TestCase):
-    def refused(self, m, a, b, ok):
-        self.assertEqual(goes(m, a, b, ok), [-22], (m, a, b, ok))
-
-    def test_questions_not_one_to_five(self):
-        for m in (0, 6, 7, 8, 31, 32, 64, GREATEST_NUMBER - 1, GREATEST_NUMBER):
-            self.refused(m, 0, 0, [0])
-            self.refused(m, 1, 1, [1, 0])
-
-    def test_no_row_may_stand(self):
-        for m in range(1, 6):
-            self.refused(m, 0, 0, [])
-            self.refused(m, 1, 1, [])
-
-    def test_a_row_twice(self):
-        self.refused(1, 0, 0, [0, 0])
-        self.refused(1, 0, 0, [1, 1])
-        self.refused(3, 0, 0, [7, 1, 2, 7])
-        self.refused(3, 0, 0, [2, 1, 1, 7])
-        # The rows that are there twice need not have the answers.
-        self.refused(3, 1, 1, [1, 2, 2])
-        self.refused(5, 0, 0, list(range(32)) + [31])
-
-    def test_a_row_too_great(self):
-        for m in range(1, 6):
-            rows = 2 ** m
-            for great in (rows, rows + 1, 255):
-                self.refused(m, 0, 0, [great])
-                self.refused(m, 0, 0, [great, 0, 1])
-                self.refused(m, 0, 0, [0, great, 1])
-                self.refused(m, 0, 0, [0, 1, great])
-            # The row too great need not have the answers.
-            self.refused(m, 1, 1, [1, rows])
-
-    def test_a_too_great(self):
-        for m in range(1, 6):
-            rows = 2 ** m
-            for a in (rows, rows + 1, 2 * rows, 2 ** 31, GREATEST_NUMBER):
-                self.refused(m, a, 0, [0, 1])
-            self.assertEqual(goes(m, rows - 1, 0, [0, 1]), [1, 0])
-
-    def test_b_too_great(self):
-        for m in range(1, 6):
-            rows = 2 ** m
-            for b in (rows, rows + 1, 2 * rows - 1, 2 ** 31, GREATEST_NUMBER):
-                self.refused(m, rows - 1, b, [0, 1])
-                self.refused(m, 0, b, [0, 1])
-
-    def test_a_and_b_too_great(self):
-        for m in range(1, 6):
-            for both in (2 ** m, 2 ** m + 1, GREATEST_NUMBER):
-                self.refused(m, both, both, [0, 1])
-
-    def test_b_has_a_question_that_a_has_not(self):
-        self.refused(1, 0, 1, [0, 1])
-        self.refused(2, 1, 2, [0, 1, 2, 3])
-        self.refused(2, 2, 1, [0, 1, 2, 3])
-        self.refused(3, 5, 7, [0, 7])
-        self.refused(3, 6, 5, [0, 7])
-        self.refused(5, 15, 16, list(range(32)))
-
-    def test_long_lists(self):
-        self.refused(5, 0, 0, list(range(33)))
-        self.refused(5, 0, 0, list(range(40)))
-        self.refused(5, 0, 0, list(range(32)) + list(range(8)))
-        for m in range(1, 6):
-            self.refused(m, 0, 0, [0] * 40)
-            self.refused(m, 0, 0, [255] * 40)
-            self.refused(m, 0, 0, list(range(216, 256)))
-
-    def test_several_at_once(self):
-        self.refused(0, 0, 0, [])
-        self.refused(GREATEST_NUMBER, GREATEST_NUMBER, GREATEST_NUMBER, [255] * 40)
-        self.refused(2, 4, 8, [4, 4])
+class Refusals(RefusesWrongAnswers, unittest.TestCase):
+    call = staticmethod(goes)
 
 
-class AgainstTheWords(unittest.TestCase):
-    def test_all_rules_of_up_to_three_questions(self):
-        for m in (1, 2, 3):
-            rows = 2 ** m
-            for size in range(rows + 1):
-                for ok in itertools.combinations(range(rows - 1, -1, -1), size):
-                    self.compare(m, list(ok))
-
-    def test_rules_of_four_and_five_questions(self):
-        for m in (4, 5):
-            for step in (1, 3, 5, 7, 11, 13):
-                for size in range(1, 2 ** m + 1, 5):
-                    self.compare(m, [(step * k + size) % 2 ** m for k in range(size)])
-
-    def test_short_lists_right_or_not(self):
-        for m in (1, 2):
-            for size in range(4):
-                for ok in itertools.product(range(2 ** m + 1), repeat=size):
-                    self.compare(m, list(ok))
-
-    def compare(self, m, ok):
-        for a in range(2 ** m + 1):
-            for b in range(2 ** m + 1):
-                if goes(m, a, b, ok) != expected(m, a, b, ok):
-                    self.fail((m, a, b, ok, goes(m, a, b, ok)))
-
-
-CALLS = (
-    (3, 1, 1, [5, 6, 3, 0]),
-    (3, 0, 0, [5, 6, 3, 0]),
-    (3, 7, 7, [5, 6, 3, 0]),
-    (5, 31, 31, [31]),
-    (0, 0, 0, [5, 1]),
-    (GREATEST_NUMBER, 0, 0, [5, 1]),
-    (3, 0, 0, []),
-    (3, 0, 0, [5, 1, 5]),
-    (3, 0, 0, [8, 1]),
-    (3, 8, 0, [5, 1]),
-    (3, 7, 8, [5, 1]),
-    (3, 1, 2, [5, 1]),
-)
+class AgainstTheWords(AgreesWithTheWords, unittest.TestCase):
+    call = staticmethod(goes)
+    expected = staticmethod(expected)
 
 
 class Interface(KeepsTheInterface, unittest.TestCase):
     call = staticmethod(goes)
-    calls = CALLS
+    calls = CALLS_OF_ANSWERS
 
     def test_arguments_by_name(self):
         self.assertEqual(goes(m=2, a=1, b=1, ok=[3, 1]), [2, 1, 3])

@@ -12,11 +12,8 @@ from common import (
     all_rules,
     answers_yes,
     clashes_by_the_words,
+    how_many_answers,
 )
-
-
-def how_many_answers(answers):
-    return len([answer for answer in answers if answer is not None])
 
 
 def expected(m, ok):
