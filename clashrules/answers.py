@@ -2,6 +2,7 @@
 
 WRONGLY_TOLD = -22
 NO_CLASH_WITHIN = -17
+NOT_TOGETHER = -33
 MOST_QUESTIONS = 5
 
 
@@ -72,6 +73,20 @@ def how_many_questions(m, a):
     return len([question for question in range(m) if (a & two_to_the_power(question)) != 0])
 
 
+def always_answered_yes(rows):
+    yes = rows[0]
+    for row in rows:
+        yes = yes & row
+    return yes
+
+
+def ever_answered_yes(rows):
+    yes = 0
+    for row in rows:
+        yes = yes | row
+    return yes
+
+
 def goes(m, a, b, ok):
     if not all_is_right(m, a, b, ok):
         return [WRONGLY_TOLD]
@@ -107,3 +122,15 @@ def within(m, a, b, ok):
     # Others may have as few: the first as clashes has them is told.
     smallest = [clash for clash in found if how_many_questions(m, clash[0]) == fewest][0]
     return [fewest, smallest[0], smallest[1]]
+
+
+def settled(m, a, b, ok):
+    if not all_is_right(m, a, b, ok):
+        return [WRONGLY_TOLD]
+    rows = rows_that_have(a, b, ok)
+    if len(rows) == 0:
+        return [NOT_TOGETHER]
+    every_question = two_to_the_power(m) - 1
+    yes = always_answered_yes(rows)
+    no = every_question - ever_answered_yes(rows)
+    return [how_many_questions(m, yes + no), yes + no, yes]

@@ -9,8 +9,6 @@ from common import (
     RULES,
     KeepsTheInterface,
     RefusesWrongRules,
-    all_rules,
-    answers_yes,
     clashes_by_the_words,
     how_many_answers,
 )
@@ -18,20 +16,6 @@ from common import (
 
 def expected(m, ok):
     return [max((how_many_answers(clash) for clash in clashes_by_the_words(m, ok)), default=0)]
-
-
-def majority(m, judges):
-    row = 0
-    for question in range(m):
-        yes = len([judge for judge in judges if answers_yes(judge, question)])
-        if 2 * yes > len(judges):
-            row += 2 ** question
-    return row
-
-
-def majorities_stand(m, ok, how_many):
-    judged = itertools.combinations_with_replacement(ok, how_many)
-    return all(majority(m, judges) in ok for judges in judged)
 
 
 class Ordinary(unittest.TestCase):
@@ -112,16 +96,6 @@ class AgainstTheWords(unittest.TestCase):
     def test_many_rules(self):
         for m, ok in RULES:
             self.assertEqual(greatest(m, ok), expected(m, ok), (m, ok))
-
-    def test_majorities_stand_just_if_no_clash_has_more_than_two_answers(self):
-        for m, ok in RULES:
-            if m <= 3 or len(ok) <= 12:
-                self.assertEqual(greatest(m, ok)[0] <= 2, majorities_stand(m, ok, 3), (m, ok))
-
-    def test_majorities_of_five_judges(self):
-        for m, ok in all_rules(1) + all_rules(2) + all_rules(3):
-            if greatest(m, ok)[0] <= 2:
-                self.assertTrue(majorities_stand(m, ok, 5), (m, ok))
 
 
 class Refusals(RefusesWrongRules, unittest.TestCase):

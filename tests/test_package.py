@@ -1,10 +1,12 @@
-"""The package's own files: what lies there, and that they import and read nothing."""
+"""The package's own files: what lies there, the calls in them, and that they keep, import and read nothing."""
 
 import ast
+import inspect
 import pathlib
 import unittest
 
 import clashrules
+import clashrules.answers
 
 FOLDER = pathlib.Path(clashrules.__file__).parent
 FILES = sorted(FOLDER.glob("*.py"))
@@ -12,6 +14,13 @@ PYTHONS_OWN = (
     "len range enumerate zip min max sum abs sorted reversed int str bool list tuple dict set"
     " frozenset isinstance ord repr any all divmod"
 ).split()
+CALLS = {
+    "goes": ["m", "a", "b", "ok"],
+    "clashes": ["m", "ok"],
+    "greatest": ["m", "ok"],
+    "within": ["m", "a", "b", "ok"],
+    "settled": ["m", "a", "b", "ok"],
+}
 
 
 def names_bound(tree):
@@ -31,6 +40,21 @@ class Package(unittest.TestCase):
         there = sorted(path for path in FOLDER.iterdir() if path.name != "__pycache__")
         self.assertEqual(there, FILES)
         self.assertIn(FOLDER / "answers.py", FILES)
+
+    def test_each_call_is_there_with_its_arguments(self):
+        for name, wanted in CALLS.items():
+            arguments = inspect.signature(getattr(clashrules.answers, name)).parameters
+            self.assertEqual(list(arguments), wanted, name)
+            for argument in arguments.values():
+                self.assertIs(argument.default, inspect.Parameter.empty, name)
+
+    def test_nothing_is_kept(self):
+        for path in FILES:
+            for node in ast.parse(path.read_text()).body:
+                if isinstance(node, ast.Assign):
+                    self.assertIs(type(ast.literal_eval(node.value)), int, path.name)
+                elif not isinstance(node, ast.FunctionDef):
+                    self.assertIsInstance(node.value, ast.Constant, path.name)
 
     def test_nothing_is_imported(self):
         for path in FILES:

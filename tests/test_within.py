@@ -4,7 +4,7 @@ import functools
 import itertools
 import unittest
 
-from clashrules.answers import clashes, goes, within
+from clashrules.answers import clashes, within
 from common import (
     CALLS_OF_ANSWERS,
     GREATEST_NUMBER,
@@ -186,13 +186,7 @@ class AgainstTheWords(AgreesWithTheWords, unittest.TestCase):
     expected = staticmethod(expected)
 
 
-class WhatHolds(unittest.TestCase):
-    def test_answers_go_together_just_if_no_clash_is_within_them(self):
-        for m, ok in RULES:
-            for a, b in all_a_and_b(m) if m < 5 else all_a_and_b(m)[::3]:
-                together = goes(m, a, b, ok)[0] > 0
-                self.assertEqual(together, within(m, a, b, ok) == [-17], (m, a, b, ok))
-
+class BesideClashes(unittest.TestCase):
     def test_what_is_told_is_one_of_the_clashes(self):
         for m, ok in RULES:
             told = clashes(m, ok)
